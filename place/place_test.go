@@ -227,8 +227,8 @@ func TestCheck(t *testing.T) {
 	}
 }
 
-// TestCheckAllRules holds all rows of steps against a pattern made of the chapter's words: what stands behind each StepTake.
-func TestCheckAllRules(t *testing.T) {
+// TestCheckByPattern holds all rows of up to 5 steps, and all up to 9 that go on from one that may be, against a pattern made of the chapter's words: what stands behind each StepTake.
+func TestCheckByPattern(t *testing.T) {
 	steps := map[byte]api.Step{'T': take(), 'z': zones(2), 'r': racks(12), 'n': leaves(1), 'E': emit(), 'x': {}}
 	may := regexp.MustCompile(`^(T(z|zr|n|zn|zrn|nE|znE|zrnE)?)+$`)
 	count := 0
@@ -243,7 +243,7 @@ func TestCheckAllRules(t *testing.T) {
 			t.Errorf("Check of %s: %d, not %d", text, e, want)
 		}
 		if len(text) == 9 || want != api.OK && len(text) > 4 {
-			return // a longer one is wrong by its beginning: those are told at less length
+			return // what begins with a wrong one is wrong: the shorter ones show that
 		}
 		for _, letter := range []byte("TzrnEx") {
 			grow(text+string(letter), append(slices.Clone(l), steps[letter]))
